@@ -220,8 +220,9 @@ func (h hand) holds(t *testing.T, status, colour uint8, phase uint64) *pair {
 		x.do(t, op(script.Push, 1))
 		x.do(t, op(script.Push, 2))
 	}
+	from := len(x.is.marks)
 	r := x.do(t, h.op)
-	if got := texts(x.is.marks); got != h.marks || r != h.r {
+	if got := texts(x.is.marks[from:]); got != h.marks || r != h.r {
 		t.Errorf("%v in the status %d, colour %d, phase %d: %s, %v; want %s, %v", h.op, status, colour, phase, got, r, h.marks, h.r)
 	}
 	want := slices.Clone(words)
@@ -242,34 +243,34 @@ func TestByHand(t *testing.T) {
 		{op(script.Load, 0, 0, 0), "r10 r11 .", Result{At: local11}, nil},
 		{op(script.Load, 7, 3, 0), "r40 r41 .", Result{At: white}, nil},
 		{op(script.Load, 7, 6, 0), "r58 r59 .", Result{At: black}, nil},
-		{op(script.Load, 7, 0, 2), "r10 .", Result{E: api.ErrArg}, nil},
-		{op(script.Load, 7, 4, 0), "r50 .", Result{E: api.ErrArg}, nil},
-		{op(script.Load, 7, 4, 255), "r50 .", Result{E: api.ErrArg}, nil},
+		{op(script.Load, 7, 0, 2), "r10", Result{E: api.ErrArg}, nil},
+		{op(script.Load, 7, 4, 0), "r50", Result{E: api.ErrArg}, nil},
+		{op(script.Load, 7, 4, 255), "r50", Result{E: api.ErrArg}, nil},
 		{op(script.Read, 0, 0, 9), "r10 r13 .", Result{V: 7}, nil},
 		{op(script.Read, 1, 0), "r20 r22 .", Result{V: 8}, nil},
 		{op(script.Read, 2, 0), "r30 r31 .", Result{V: 9}, nil},
 		{op(script.Read, 3, 0), "r40 r43 .", Result{V: 6}, nil},
-		{op(script.Read, 0, 1), "r10 .", Result{E: api.ErrArg}, nil},
-		{op(script.Read, 6, 0), "r58 .", Result{E: api.ErrArg}, nil},
+		{op(script.Read, 0, 1), "r10", Result{E: api.ErrArg}, nil},
+		{op(script.Read, 6, 0), "r58", Result{E: api.ErrArg}, nil},
 		{op(script.Write, 0, 0, 5), "r10 w13 .", Result{}, map[int]uint64{13: 5}},
 		{op(script.Write, 3, 0, 255), "r40 w43 .", Result{}, map[int]uint64{43: 255}},
-		{op(script.Write, 3, 1, 5), "r40 .", Result{E: api.ErrArg}, nil},
-		{op(script.Write, 5, 0, 5), "r54 .", Result{E: api.ErrArg}, nil},
+		{op(script.Write, 3, 1, 5), "r40", Result{E: api.ErrArg}, nil},
+		{op(script.Write, 5, 0, 5), "r54", Result{E: api.ErrArg}, nil},
 		{op(script.Get, 7, 0, 9), "r5 .", Result{At: white}, nil},
 		{op(script.Get, 0, 1), "r6 .", Result{}, nil},
 		{op(script.Store, 0, 0, 7), "r1 r10 w11 .", Result{}, map[int]uint64{11: 0}},
 		{op(script.Store, 0, 1, 0), "r1 r10 w12 .", Result{}, map[int]uint64{12: local21}},
 		{op(script.Store, 0, 1, 2), "r1 r10 w12 .", Result{}, map[int]uint64{12: local01}},
 		{op(script.Store, 1, 0, 4), "r1 r20 w21 .", Result{}, map[int]uint64{21: white}},
-		{op(script.Store, 0, 2, 2), "r1 r10 .", Result{E: api.ErrArg}, nil},
-		{op(script.Store, 3, 2, 2), "r1 r40 .", Result{E: api.ErrArg}, nil},
+		{op(script.Store, 0, 2, 2), "r1 r10", Result{E: api.ErrArg}, nil},
+		{op(script.Store, 3, 2, 2), "r1 r40", Result{E: api.ErrArg}, nil},
 		{op(script.Store, 3, 1, 7), "r1 r40 u42 .", Result{}, nil},
 		{op(script.Put, 1, 7, 9), "r1 u6 .", Result{}, nil},
-		{op(script.Move, 7, 0, 9), "", Result{}, nil},
-		{op(script.Move, 0, 7), "", Result{}, nil},
-		{op(script.Clear, 0, 9, 9), "", Result{}, nil},
-		{op(script.Push, 0, 9, 9), "", Result{}, nil},
-		{op(script.Pop, 7, 9, 9), "", Result{}, nil},
+		{op(script.Move, 7, 0, 9), ".", Result{}, nil},
+		{op(script.Move, 0, 7), ".", Result{}, nil},
+		{op(script.Clear, 0, 9, 9), ".", Result{}, nil},
+		{op(script.Push, 0, 9, 9), ".", Result{}, nil},
+		{op(script.Pop, 7, 9, 9), ".", Result{}, nil},
 		{op(script.Load, 8, 0, 0), "", Result{E: api.ErrArg}, nil},
 		{op(script.Load, 0, 7, 0), "", Result{E: api.ErrNone}, nil},
 		{op(script.Store, 7, 0, 0), "", Result{E: api.ErrNone}, nil},
@@ -409,10 +410,12 @@ func TestAllocByHand(t *testing.T) {
 			y.is.state = func() state {
 				s := stateOf(y.th)
 				s.brief = briefly(y.th.Held, y.th.Work, false)
-				if slot, _ := y.th.Roots.Get(int(x.op.A)); slot != slotsByHand()[x.op.A] {
-					t.Errorf("%v: the slot has %d ahead of the point", x.op, slot)
-				}
 				return s
+			}
+			y.is.others = func(plain) {
+				if slot, _ := y.th.Roots.Get(int(x.op.A)); slot != slotsByHand()[x.op.A] {
+					t.Errorf("%v: the slot has %d ahead of the last touch", x.op, slot)
+				}
 			}
 			y.want.state = func() state {
 				s := y.o.state()
@@ -662,15 +665,15 @@ func TestGlobals(t *testing.T) {
 	}
 }
 
-// P17.2: where a word is read that can be no slot's reference, the slot stays as it is, and that is told.
+// P17.2: where a word is read that can be no slot's reference, the slot stays as it is, and that is told; it is not done, so there is no point.
 func TestReferencesThatMayNotBe(t *testing.T) {
 	p, words := byHand(t)
 	for _, w := range []uint64{1 << 63, 1<<63 + 1, math.MaxUint64, math.MaxUint64 - 9} {
 		words[11], words[41], words[5] = w, w, w
 		for _, y := range []script.Op{op(script.Load, 2, 0, 0), op(script.Load, 2, 3, 0), op(script.Get, 2, 0)} {
 			x := newPair(t, p, words, 0, 8).has(slotsByHand()...)
-			if r := x.do(t, y); r != (Result{E: api.ErrArg}) || !slices.Equal(slotsOf(x.th), slotsByHand()) {
-				t.Errorf("%v of %d: %v, slots %v", y, w, r, slotsOf(x.th))
+			if r := x.do(t, y); r != (Result{E: api.ErrArg}) || !slices.Equal(slotsOf(x.th), slotsByHand()) || points(x.is.marks) != 0 {
+				t.Errorf("%v of %d: %v, slots %v, %s", y, w, r, slotsOf(x.th), texts(x.is.marks))
 			}
 		}
 		for status := range uint8(3) {
@@ -847,7 +850,104 @@ func TestHeldAnew(t *testing.T) {
 	}
 }
 
-// P17.2: the point is told behind the last touch, but of Store and Put into what is shared behind the Update of the word: once for each operation that touches something; and without one all is as it is with one.
+// points is how many of these marks are points.
+func points(l []mark) int {
+	n := 0
+	for _, k := range l {
+		if k.kind == point {
+			n++
+		}
+	}
+	return n
+}
+
+// P17.2: an operation that touches nothing has its point when it is done, and but one.
+func TestPointOfNoTouch(t *testing.T) {
+	p, words := byHand(t)
+	for _, y := range []struct {
+		op    script.Op
+		slots []int
+		stack []int
+	}{
+		{op(script.Move, 7, 0), []int{10, 20, 30, 40, 50, 54, 58, 10}, []int{20, 30}},
+		{op(script.Move, 0, 7), []int{0, 20, 30, 40, 50, 54, 58, 0}, []int{20, 30}},
+		{op(script.Move, 3, 3), []int{10, 20, 30, 40, 50, 54, 58, 0}, []int{20, 30}},
+		{op(script.Clear, 1), []int{10, 0, 30, 40, 50, 54, 58, 0}, []int{20, 30}},
+		{op(script.Clear, 7), []int{10, 20, 30, 40, 50, 54, 58, 0}, []int{20, 30}},
+		{op(script.Push, 0), []int{10, 20, 30, 40, 50, 54, 58, 0}, []int{20, 30, 10}},
+		{op(script.Push, 7), []int{10, 20, 30, 40, 50, 54, 58, 0}, []int{20, 30, 0}},
+		{op(script.Pop, 7), []int{10, 20, 30, 40, 50, 54, 58, 30}, []int{20}},
+		{op(script.Pop, 2), []int{10, 20, 30, 40, 50, 54, 58, 0}, []int{20}},
+	} {
+		for status := range uint8(3) {
+			x := newPair(t, p, words, 0, 8).has(slotsByHand()...)
+			do(t, x.th, script.Push, 1)
+			do(t, x.th, script.Push, 2)
+			x.th.Status, x.is.marks = status, nil
+			told := 0
+			x.th.Point = func() {
+				told++
+				if slots, stack := slotsOf(x.th), x.th.Roots.Stack(); !slices.Equal(slots, y.slots) || !slices.Equal(stack, y.stack) {
+					t.Errorf("%v: at the point %v, %v; want %v, %v", y.op, slots, stack, y.slots, y.stack)
+				}
+			}
+			if r := x.th.Do(y.op); r != (Result{}) || told != 1 || len(x.is.marks) != 0 {
+				t.Errorf("%v: %v, %d points, touched %v", y.op, r, told, x.is.marks)
+			}
+		}
+	}
+}
+
+// P17.2: what is refused has no point, be it behind the header's touch, or ahead of all touches; that memory is out has one.
+func TestPointOfRefused(t *testing.T) {
+	p, words := byHand(t)
+	for _, y := range []struct {
+		op      script.Op
+		want    api.Errno
+		touches int
+		points  int
+	}{
+		{op(script.Load, 7, 0, 2), api.ErrArg, 1, 0},
+		{op(script.Load, 7, 3, 2), api.ErrArg, 1, 0},
+		{op(script.Store, 0, 2, 1), api.ErrArg, 2, 0},
+		{op(script.Store, 3, 2, 1), api.ErrArg, 2, 0},
+		{op(script.Read, 0, 1), api.ErrArg, 1, 0},
+		{op(script.Read, 3, 1), api.ErrArg, 1, 0},
+		{op(script.Write, 0, 1, 7), api.ErrArg, 1, 0},
+		{op(script.Write, 3, 1, 7), api.ErrArg, 1, 0},
+		{op(script.Load, 8, 0, 0), api.ErrArg, 0, 0},
+		{op(script.Get, 7, 2), api.ErrArg, 0, 0},
+		{op(script.Move, 8, 0), api.ErrArg, 0, 0},
+		{op(script.Move, 0, 8), api.ErrArg, 0, 0},
+		{op(script.Clear, 8), api.ErrArg, 0, 0},
+		{op(script.Push, 8), api.ErrArg, 0, 0},
+		{op(script.Pop, 8), api.ErrArg, 0, 0},
+		{op(script.Pop, 0), api.ErrNone, 0, 0},
+		{op(script.Read, 7, 0), api.ErrNone, 0, 0},
+		{op(script.Alloc, 0, 2, 1), api.ErrArg, 0, 0},
+		{op(script.Step), api.ErrForm, 0, 0},
+		{op(script.Collect), api.ErrForm, 0, 0},
+		{op(script.Alloc, 0, 0, 1), api.ErrMem, 6, 1},
+		{op(script.Alloc, 0, 0, 9), api.ErrMem, 5, 1},
+	} {
+		for status := range uint8(3) {
+			x := newPair(t, p, words, 0, 8).has(slotsByHand()...).in(status, 0, false)
+			r := x.do(t, y.op)
+			if n := points(x.is.marks); r != (Result{E: y.want}) || n != y.points || len(x.is.marks)-n != y.touches {
+				t.Errorf("%v: %v, %s; want %d, %d touches, %d points", y.op, r, texts(x.is.marks), y.want, y.touches, y.points)
+			}
+		}
+	}
+	x := newPair(t, p, words, 0, 8)
+	for range api.MaxStack {
+		x.do(t, op(script.Push, 0))
+	}
+	if r := x.do(t, op(script.Push, 0)); r != (Result{E: api.ErrFull}) || points(x.is.marks) != api.MaxStack {
+		t.Errorf("onto a full stack: %v, %s", r, texts(x.is.marks))
+	}
+}
+
+// P17.2: the point is told behind the last touch, but of Store and Put into what is shared behind the Update of the word: once for each operation that is done, and never for one that is not; and without one all is as it is with one.
 func TestPoint(t *testing.T) {
 	p, words := byHand(t)
 	words[0] = 3
@@ -866,15 +966,19 @@ func TestPoint(t *testing.T) {
 			t.Fatalf("%v without a point: %v, %v; want %v, %v", z, r2, stateOf(y.th), r, stateOf(x.th))
 		}
 		marks := x.is.marks[from:]
-		points := slices.IndexFunc(marks, func(k mark) bool { return k.kind == point })
+		at := slices.IndexFunc(marks, func(k mark) bool { return k.kind == point })
 		touches := slices.DeleteFunc(slices.Clone(marks), func(k mark) bool { return k.kind == point })
-		if len(marks)-len(touches) != min(len(touches), 1) || !slices.Equal(touches, y.is.marks[other:]) {
-			t.Fatalf("%v: %s; without a point %s", z, texts(marks), texts(y.is.marks[other:]))
+		want := 0
+		if r.E == api.OK || r.E == api.ErrMem {
+			want = 1
 		}
-		if points < 0 || points == len(marks)-1 {
+		if points(marks) != want || !slices.Equal(touches, y.is.marks[other:]) {
+			t.Fatalf("%v: %v, %s; without a point %s", z, r, texts(marks), texts(y.is.marks[other:]))
+		}
+		if at < 0 || at == len(marks)-1 {
 			continue
 		}
-		if k := marks[points-1]; z.Do != script.Store && z.Do != script.Put || k.kind != update || k.is != uint64(slotsOf(x.th)[argumentVal(z)]) || len(marks)-points > 3 {
+		if k := marks[at-1]; z.Do != script.Store && z.Do != script.Put || k.kind != update || k.is != uint64(slotsOf(x.th)[argumentVal(z)]) || len(marks)-at > 3 {
 			t.Fatalf("%v: %s", z, texts(marks))
 		}
 	}

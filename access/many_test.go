@@ -36,11 +36,12 @@ func turn(status, colour uint8) act { return act{kind: turns, status: status, co
 // phase is that of writing one.
 func phase(v uint64) act { return act{kind: writes, phase: v} }
 
-// did is an operation that was done: by which thread, what came of it, and when its point was, among all others.
+// did is an operation that is over: by which thread, what came of it, whether a point was told, and when that was, among all others; if there was none, when it was over.
 type did struct {
 	thread int
 	op     script.Op
 	r      Result
+	told   bool
 	point  int
 }
 
@@ -162,11 +163,12 @@ func (w *world) operate(m api.Mem, i int, y script.Op) {
 	x := w.actors[i]
 	x.point = -1
 	r := x.do(m, y)
-	// What touches nothing has no point: it is done at once.
-	if x.point < 0 {
+	told := x.point >= 0
+	// What is refused changes nothing: it is so whenever it is over.
+	if !told {
 		w.point(x)
 	}
-	w.done = append(w.done, did{i, y, r, x.point})
+	w.done = append(w.done, did{i, y, r, told, x.point})
 	if r.E != api.OK || x.status != Sync {
 		return
 	}
@@ -368,6 +370,9 @@ func (w *world) agrees(t *testing.T) {
 	places := []int{0}
 	l := slices.SortedFunc(slices.Values(w.done), func(a, b did) int { return cmp.Compare(a.point, b.point) })
 	for _, x := range l {
+		if x.told != (x.r.E == api.OK || x.r.E == api.ErrMem) {
+			t.Fatalf("%v: a point was told: %v", x, x.told)
+		}
 		// That memory is out is what the machine says.
 		if x.r.E == api.ErrMem {
 			if x.op.Do != script.Alloc || x.r != (Result{E: api.ErrMem}) {

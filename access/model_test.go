@@ -56,7 +56,7 @@ const (
 	point
 )
 
-// mark is a touch that was done: of what kind, where, what the word was, and what it is; and what the thread had ahead of it.
+// mark is a touch that was done: of what kind, where, what the word was, and what it is; and what the thread had ahead of it, or at the point.
 type mark struct {
 	kind, at int
 	was, is  uint64
@@ -171,7 +171,13 @@ func (m *tape) touch(kind, at int, f func(v uint64) uint64) uint64 {
 }
 
 // point keeps that the point was told.
-func (m *tape) point() { m.marks = append(m.marks, mark{kind: point}) }
+func (m *tape) point() {
+	k := mark{kind: point}
+	if m.state != nil {
+		k.state = m.state()
+	}
+	m.marks = append(m.marks, k)
+}
 
 // plan is how many there are of each thing in an arena, and the layout of that.
 type plan struct {
@@ -327,6 +333,7 @@ func (o *model) do(op script.Op) Result {
 	case 7:
 		phase := o.m.Read(1)
 		o.share(o.p.global(a), o.slots[b], phase)
+		return Result{}
 	case 8:
 		o.slots[a] = o.slots[b]
 	case 9:
@@ -339,6 +346,7 @@ func (o *model) do(op script.Op) Result {
 	default:
 		return o.field(op)
 	}
+	o.point()
 	return Result{}
 }
 
@@ -358,11 +366,11 @@ func (o *model) alloc(dst, refs, size int) Result {
 // load gives a slot what a word has, if it may be a reference.
 func (o *model) load(dst, at int) Result {
 	to := int(o.m.Read(at))
-	o.point()
 	if to < 0 {
 		return Result{E: api.ErrArg}
 	}
 	o.slots[dst] = to
+	o.point()
 	return Result{At: to}
 }
 
@@ -377,7 +385,6 @@ func (o *model) field(op script.Op) Result {
 	at := has(op, from, w)
 	switch {
 	case at < 0:
-		o.point()
 		return Result{E: api.ErrArg}
 	case op.Do == 2:
 		return o.load(int(op.A), at)
